@@ -9,6 +9,7 @@ import (
 
 	"riposte/api"
 	"riposte/arena"
+	"riposte/internal/samples"
 	"riposte/parse"
 	"riposte/play"
 )
@@ -116,6 +117,11 @@ func again(n int, s string) string { return strings.Join(slices.Repeat([]string{
 
 // source returns the same numbers in each run.
 func source(n uint64) *rand.Rand { return rand.New(rand.NewPCG(n, 6)) }
+
+// session returns an export of a random program without an error.
+func session(r *rand.Rand) api.Session {
+	return api.Session{T: samples.Tree(r.IntN), Export: "m", Jumps: r.IntN(2) == 0}
+}
 
 // pick returns one of a list.
 func pick[T any](r *rand.Rand, l ...T) T { return l[r.IntN(len(l))] }
